@@ -29,12 +29,14 @@ func TestAnyListAndText(t *testing.T) {
 		if e != wantE || place != wantPlace {
 			t.Fatalf("Check(%v) = %d, %d, want %d, %d", h, e, place, wantE, wantPlace)
 		}
+		place, values, e := otherReplay(h)
+		wantReplayed(t, h, place, values, e)
 		text := make([]byte, d.below(100))
 		for i := range text {
 			text[i] = byte(d.below(256))
 		}
-		l, e, place := otherParse(string(text))
-		wantParsed(t, string(text), l, e, place)
+		l, e, line := otherParse(string(text))
+		wantParsed(t, string(text), l, e, line)
 	}
 }
 
@@ -48,10 +50,13 @@ func handedIn() [][]api.Event {
 	return [][]api.Event{
 		list(),
 		list(begin(1, 0), add(1, 2, 5, -7), commit(1)),
+		list(begin(1, 0), begin(2, 1), add(2, 3, 5, 0), write(1, 0, 7), commit(2), read(1, 3, 5), commit(1)),
+		list(begin(1, 0), begin(2, 0), write(1, 0, 5), read(2, 0, 0), commit(1), commit(2)),
 		list(begin(1, 0), begin(2, 1), abort(1), read(2, 0, 0)),
 		list(begin(1, 0), whole(api.Begin), whole(api.Commit), whole(9)),
 		times(60, write(1, 1, 1)),
 		times(61, write(1, 1, 1)),
+		join(row(1), times(58, write(1, 1, 1)), list(commit(1))),
 	}
 }
 
@@ -61,6 +66,7 @@ func TestNothingHandedInIsWrittenInto(t *testing.T) {
 		before := slices.Clone(room)
 		grove.Print(h)
 		grove.Check(h)
+		grove.Replay(h)
 		if !slices.Equal(room, before) {
 			t.Errorf("%v became %v", before, room)
 		}
@@ -73,12 +79,14 @@ func TestAnswersHangOnTheArgumentsAlone(t *testing.T) {
 		h := slices.Clone(events)
 		text, textError := grove.Print(h)
 		checkError, place := grove.Check(h)
+		played, values, playError := grove.Replay(h)
 		for i := range h {
 			h[i] = whole(88)
 		}
 		for _, other := range handedIn() {
 			grove.Print(other)
 			grove.Check(other)
+			grove.Replay(other)
 			grove.Parse("B 1 0\nQ")
 		}
 		againText, againTextError := grove.Print(events)
@@ -86,6 +94,7 @@ func TestAnswersHangOnTheArgumentsAlone(t *testing.T) {
 		if againText != text || againTextError != textError || againCheckError != checkError || againPlace != place {
 			t.Errorf("%v: %q, %d, %d, %d, then %q, %d, %d, %d", events, text, textError, checkError, place, againText, againTextError, againCheckError, againPlace)
 		}
+		wantReplayed(t, events, played, values, playError)
 	}
 }
 

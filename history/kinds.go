@@ -1,4 +1,4 @@
-// Package history: lists of events: as text, read from text, and whether they are a history.
+// Package history: lists of events: as text, read from text, whether they are a history, and played again.
 package history
 
 import "grove/api"
@@ -30,7 +30,7 @@ func onObject(kind uint8) bool {
 	return kind == api.Read || kind == api.Write || kind == api.Add
 }
 
-// All kinds name Tx. What else they name is asked here alone, so that Print, Parse and Check agree on it.
+// All kinds name Tx. What else they name is asked here alone, so that the calls agree on it.
 
 func namesArg(kind uint8) bool {
 	return kind == api.Begin || onObject(kind)

@@ -13,6 +13,14 @@ type Tree struct {
 // Begun tells how many transactions were begun: the number of the last one, too.
 func (t *Tree) Begun() uint8 { return t.begun }
 
+// Parent: what tx lies in; 0, too, if tx was not begun.
+func (t *Tree) Parent(tx uint8) uint8 {
+	if tx > api.MaxTx {
+		return 0
+	}
+	return t.parent[tx]
+}
+
 // IsOpen tells whether tx is a transaction that has not ended; 0 is none.
 func (t *Tree) IsOpen(tx uint8) bool {
 	return tx <= api.MaxTx && t.open[tx]

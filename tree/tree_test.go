@@ -73,6 +73,25 @@ func TestCommit(t *testing.T) {
 	wantOpen(t, r, 1, 4)
 }
 
+func TestParent(t *testing.T) {
+	r := grown(t)
+	r.Commit(3)
+	r.Abort(1)
+	want := [256]uint8{2: 1, 3: 2, 4: 1}
+	for tx := 0; tx <= 255; tx++ {
+		if got := r.Parent(uint8(tx)); got != want[tx] {
+			t.Errorf("Parent(%d) = %d, want %d", tx, got, want[tx])
+		}
+	}
+	var deep Tree
+	for i := uint8(1); i <= api.MaxTx; i++ {
+		deep.Begin(i - 1)
+	}
+	if got := deep.Parent(api.MaxTx); got != api.MaxTx-1 {
+		t.Errorf("the last one's parent is %d", got)
+	}
+}
+
 func TestHasOpenChild(t *testing.T) {
 	r := grown(t)
 	for tx := 0; tx <= 255; tx++ {
