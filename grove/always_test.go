@@ -118,3 +118,90 @@ func TestParsedListsAreFresh(t *testing.T) {
 		}
 	}
 }
+
+// filled: a store with n events.
+func filled(t *testing.T, n int) *grove.Store {
+	t.Helper()
+	h := join(list(begin(1, 0), begin(2, 1), write(2, 0, 5), commit(2)), times(56, read(1, 0, 5)))
+	return storeOf(t, h[:n]...)
+}
+
+func TestHistoriesOfAStoreAreFresh(t *testing.T) {
+	for n := 0; n <= 60; n++ {
+		s := filled(t, n)
+		before := lookAt(t, s)
+		first := s.History()
+		second := s.History()
+		want := slices.Clone(second)
+		all := first[:cap(first)]
+		for i := range all {
+			all[i] = whole(99)
+		}
+		if l := lookAt(t, s); l != before {
+			t.Errorf("%d events: behind a list that was written into: %v, want %v", n, l, before)
+		}
+		if !slices.Equal(second, want) {
+			t.Errorf("%d events: what came out was changed: %v", n, second)
+		}
+		// Later events show in no earlier list, nor in its spare room.
+		if n < 60 {
+			happen(t, s, begin(next(n), 0))
+		}
+		if !slices.Equal(second, want) || !slices.Equal(all, times(len(all), whole(99))) {
+			t.Errorf("%d events: what came out was changed by a later call: %v, %v", n, all, second)
+		}
+		third := s.History()
+		for i := range second {
+			second[i] = whole(98)
+		}
+		if !slices.Equal(third[:n], want) {
+			t.Errorf("%d events: a later list was changed by way of an earlier one: %v", n, third)
+		}
+	}
+}
+
+// next: the number of the next transaction behind n events of filled.
+func next(n int) uint8 {
+	return uint8(min(n, 2) + 1)
+}
+
+// Two stores, and the other calls, are used in turn, and each store is as if it were alone.
+func TestStoresKnowNothingOfOneAnother(t *testing.T) {
+	d := dice{10}
+	for range 30 {
+		stores := []*grove.Store{grove.New(), grove.New()}
+		histories := make([][]api.Event, 2)
+		for range 120 {
+			i := d.below(2)
+			other := lookAt(t, stores[1-i])
+			histories[i], _ = wantAsOther(t, stores[i], histories[i], d.call(histories[i]))
+			if l := lookAt(t, stores[1-i]); l != other {
+				t.Fatalf("a call of one store changed another: %v became %v", other, l)
+			}
+			grove.Replay(histories[i])
+			grove.Check(histories[1-i])
+		}
+		if l := lookAt(t, grove.New()); l != (look{}) {
+			t.Fatalf("a new store knows of older ones: %v", l)
+		}
+	}
+	one, other := filled(t, 60), filled(t, 3)
+	refused(t, one, api.ErrFull, commit(1))
+	happen(t, other, commit(2), commit(1))
+	wantValues(t, other, api.Values{5})
+	wantValues(t, one, api.Values{})
+	happen(t, grove.New(), begin(1, 0), read(1, 0, 0))
+}
+
+// What the other calls answer does not hang on what stores did in between.
+func TestStoresChangeNoOtherAnswers(t *testing.T) {
+	for _, h := range handedIn() {
+		text, textError := grove.Print(h)
+		place, values, e := grove.Replay(h)
+		filled(t, 60)
+		if again, againError := grove.Print(h); again != text || againError != textError {
+			t.Errorf("Print(%v) = %q, %d, then %q, %d", h, text, textError, again, againError)
+		}
+		wantReplayed(t, h, place, values, e)
+	}
+}

@@ -10,6 +10,14 @@ type Tree struct {
 	open   [api.MaxTx + 1]bool
 }
 
+// Bit: what stands for tx where several are told as bits: 2^tx; 0 is no transaction and has none.
+func Bit(tx uint8) uint16 {
+	if tx == 0 || tx > api.MaxTx {
+		return 0
+	}
+	return uint16(1) << tx
+}
+
 // Begun tells how many transactions were begun: the number of the last one, too.
 func (t *Tree) Begun() uint8 { return t.begun }
 
@@ -24,6 +32,31 @@ func (t *Tree) Parent(tx uint8) uint8 {
 // IsOpen tells whether tx is a transaction that has not ended; 0 is none.
 func (t *Tree) IsOpen(tx uint8) bool {
 	return tx <= api.MaxTx && t.open[tx]
+}
+
+// Open: the open transactions, as bits.
+func (t *Tree) Open() uint16 {
+	open := uint16(0)
+	for tx := uint8(api.MaxTx); tx > 0; tx-- {
+		if t.open[tx] {
+			open |= Bit(tx)
+		}
+	}
+	return open
+}
+
+// Line: tx and its ancestors, as bits.
+func (t *Tree) Line(tx uint8) uint16 {
+	line := uint16(0)
+	next := tx
+	// A parent is begun ahead of its children, so going downwards meets the whole line.
+	for i := uint8(api.MaxTx); i > 0; i-- {
+		if i == next {
+			line |= Bit(i)
+			next = t.parent[i]
+		}
+	}
+	return line
 }
 
 // MayLieIn tells whether a new transaction may lie in parent.

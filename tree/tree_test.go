@@ -126,3 +126,67 @@ func TestAbort(t *testing.T) {
 		}
 	}
 }
+
+func TestBit(t *testing.T) {
+	want := uint16(2)
+	for tx := 0; tx <= 255; tx++ {
+		got := Bit(uint8(tx))
+		if tx == 0 || tx > 15 {
+			if got != 0 {
+				t.Errorf("Bit(%d) = %d", tx, got)
+			}
+			continue
+		}
+		if got != want {
+			t.Errorf("Bit(%d) = %d, want %d", tx, got, want)
+		}
+		want *= 2
+	}
+}
+
+func TestOpen(t *testing.T) {
+	var r Tree
+	if got := r.Open(); got != 0 {
+		t.Errorf("of no transactions %b are open", got)
+	}
+	for i := 1; i <= api.MaxTx; i++ {
+		r.Begin(0)
+	}
+	if got := r.Open(); got != 1<<16-2 {
+		t.Errorf("of all transactions %b are open", got)
+	}
+	g := grown(t)
+	g.Commit(3)
+	if got := g.Open(); got != 2+4+16+32 {
+		t.Errorf("behind a commit %b are open", got)
+	}
+	g.Abort(1)
+	if got := g.Open(); got != 32 {
+		t.Errorf("behind an abort %b are open", got)
+	}
+}
+
+func TestLine(t *testing.T) {
+	r := grown(t)
+	r.Commit(3)
+	r.Abort(4)
+	for tx, want := range []uint16{0, 2, 2 + 4, 2 + 4 + 8, 2 + 16, 32} {
+		if got := r.Line(uint8(tx)); got != want {
+			t.Errorf("Line(%d) = %b, want %b", tx, got, want)
+		}
+	}
+	for _, tx := range []uint8{16, 17, 255} {
+		if got := r.Line(tx); got != 0 {
+			t.Errorf("Line(%d) = %b", tx, got)
+		}
+	}
+	var deep Tree
+	for i := uint8(1); i <= api.MaxTx; i++ {
+		deep.Begin(i - 1)
+	}
+	for i := uint8(1); i <= api.MaxTx; i++ {
+		if got, want := int(deep.Line(i)), 1<<(i+1)-2; got != want {
+			t.Errorf("%d in one another: %b, want %b", i, got, want)
+		}
+	}
+}
